@@ -46,11 +46,8 @@ func (m *model) start(now int64) api.Errno {
 	return api.OK
 }
 
-// rest lets what was used be on its way, and come back at that time, or at the last one.
+// rest lets what was used be on its way, and come back at that time.
 func (m *model) rest(at int64) {
-	if at > 1<<40 {
-		at = 1 << 40
-	}
 	if m.used > 0 {
 		m.pieces = append(m.pieces, api.Piece{At: at, Amount: m.used})
 	}
@@ -269,10 +266,11 @@ type moment struct {
 }
 
 // play lets a server go through times, one behind the other, by chance; at each it uses as much as it likes.
-func play(t *testing.T, r *rand.Rand, s *sporadic.Server, times int64) []moment {
-	t.Helper()
+// At the last time it stays, as clocks do.
+func play(r *rand.Rand, s *sporadic.Server, from, times int64) []moment {
 	var all []moment
-	for now := range times {
+	for n := range times {
+		now := min(from+n, api.MaxTime)
 		since, _, active := s.Active()
 		m := moment{left: s.Left(), since: -1}
 		if active {
@@ -316,36 +314,67 @@ func window(all []moment) (used, carried int64, topped bool) {
 	return used, carried, topped
 }
 
-// P11.5: in any period of time no more than the budget is used, and what one used that was active ahead of it. If nothing
-// came back to that one, this is no more than what was left ahead of it.
-func TestNoMoreIsUsedInAPeriod(t *testing.T) {
-	r := rand.New(rand.NewSource(14))
-	great, plain := 0, 0
-	for _, kind := range []model{
+// wantBound: in a period of time no more than the budget is used, and what one used that was active ahead of it. If
+// nothing came back to that one, this is no more than what was left ahead of it. It tells whether more than the budget
+// was used, and whether nothing came back.
+func wantBound(t *testing.T, kind model, all []moment) (great, plain bool) {
+	t.Helper()
+	used, carried, topped := window(all)
+	if used > kind.budget+carried || used > 2*kind.budget {
+		t.Fatalf("%+v: %d used in a period, %d by one that was active", kind, used, carried)
+	}
+	if !topped && used > kind.budget+all[0].left {
+		t.Fatalf("%+v: %d used in a period, where %d were left", kind, used, all[0].left)
+	}
+	return used > kind.budget, !topped
+}
+
+// smallKinds are numbers to make servers with whose periods are short.
+func smallKinds() []model {
+	return []model{
 		{budget: 1, period: 1, most: 1}, {budget: 1, period: 7, most: 2}, {budget: 3, period: 10, most: 2},
 		{budget: 9, period: 9, most: 16}, {budget: 10, period: 20, most: 4}, {budget: 30, period: 40, most: 16},
-	} {
+	}
+}
+
+// P11.5
+func TestNoMoreIsUsedInAPeriod(t *testing.T) {
+	r := rand.New(rand.NewSource(14))
+	greats, plains := 0, 0
+	for _, kind := range smallKinds() {
 		for range 20 {
-			all := play(t, r, made(t, kind.budget, kind.period, kind.most), 300)
+			all := play(r, made(t, kind.budget, kind.period, kind.most), 0, 300)
 			for from := range len(all) - int(kind.period) + 1 {
-				used, carried, topped := window(all[from : from+int(kind.period)])
-				if used > kind.budget+carried || used > 2*kind.budget {
-					t.Fatalf("%+v: %d used from %d on, %d by one that was active", kind, used, from, carried)
+				great, plain := wantBound(t, kind, all[from:from+int(kind.period)])
+				if great {
+					greats++
 				}
-				if !topped && used > kind.budget+all[from].left {
-					t.Fatalf("%+v: %d used from %d on, where %d were left", kind, used, from, all[from].left)
-				}
-				if used > kind.budget {
-					great++
-				}
-				if !topped {
-					plain++
+				if plain {
+					plains++
 				}
 			}
 		}
 	}
-	if great == 0 || plain == 0 {
-		t.Errorf("more than the budget was used %d times, and nothing came back %d times", great, plain)
+	if greats == 0 || plains == 0 {
+		t.Errorf("more than the budget was used %d times, and nothing came back %d times", greats, plains)
+	}
+}
+
+// P11.5: at the last time, where clocks stand still, no period ends.
+func TestNoMoreIsUsedInTheLastPeriod(t *testing.T) {
+	r := rand.New(rand.NewSource(15))
+	const ahead = 60
+	for _, kind := range smallKinds() {
+		for range 20 {
+			all := play(r, made(t, kind.budget, kind.period, kind.most), api.MaxTime-ahead, ahead+200)
+			for from := range ahead + 1 {
+				end := from + int(kind.period)
+				if end > ahead {
+					end = len(all)
+				}
+				wantBound(t, kind, all[from:end])
+			}
+		}
 	}
 }
 

@@ -262,13 +262,13 @@ func TestUseOfTheGreatestBudget(t *testing.T) {
 	wantState(t, "came back", s, state{left: api.MaxTime, high: true})
 }
 
-// P11.2: what is used up comes back at the start and the period; beyond the last time: there.
+// P11.2: what is used up comes back at the start and the period, also where that is beyond the last time.
 func TestUseThatStopsIt(t *testing.T) {
 	for _, c := range []struct{ period, since, at int64 }{
 		{1, 0, 1}, {1, 5, 6}, {10, 0, 10}, {10, 5, 15}, {api.MaxTime, 0, api.MaxTime},
 		{1, api.MaxTime - 1, api.MaxTime}, {10, api.MaxTime - 10, api.MaxTime}, {api.MaxTime - 5, 5, api.MaxTime},
-		{1, api.MaxTime, api.MaxTime}, {10, api.MaxTime - 9, api.MaxTime}, {10, api.MaxTime, api.MaxTime},
-		{api.MaxTime, 1, api.MaxTime}, {api.MaxTime, api.MaxTime, api.MaxTime},
+		{1, api.MaxTime, api.MaxTime + 1}, {10, api.MaxTime - 9, api.MaxTime + 1}, {10, api.MaxTime, api.MaxTime + 10},
+		{api.MaxTime, 1, api.MaxTime + 1}, {api.MaxTime, api.MaxTime, 2 * api.MaxTime},
 	} {
 		s := made(t, 1, c.period, 2)
 		start(t, s, c.since)
@@ -327,7 +327,7 @@ func TestStopOfOneThatUsedNothing(t *testing.T) {
 	}
 }
 
-// P11.2: at its start and the period, or at now, if that is later.
+// P11.2: at its start and the period, also where that is beyond the last time, or at now, if that is later.
 func TestStopOfOneThatUsedSomething(t *testing.T) {
 	for _, c := range []struct{ period, since, now, at int64 }{
 		{10, 5, 0, 15}, {10, 5, 4, 15}, {10, 5, 5, 15}, {10, 5, 6, 15}, {10, 5, 14, 15},
@@ -336,8 +336,9 @@ func TestStopOfOneThatUsedSomething(t *testing.T) {
 		{3, 0, 0, 3}, {3, 7, 10, 10}, {3, 7, 11, 11}, {api.MaxTime, 0, 0, api.MaxTime},
 		{10, api.MaxTime - 10, 0, api.MaxTime}, {10, api.MaxTime - 11, 0, api.MaxTime - 1},
 		{10, api.MaxTime - 11, api.MaxTime, api.MaxTime},
-		{10, api.MaxTime - 9, 0, api.MaxTime}, {10, api.MaxTime, 0, api.MaxTime}, {10, api.MaxTime, api.MaxTime, api.MaxTime},
-		{api.MaxTime, 1, 2, api.MaxTime}, {api.MaxTime, api.MaxTime, api.MaxTime, api.MaxTime},
+		{10, api.MaxTime - 9, 0, api.MaxTime + 1}, {10, api.MaxTime - 9, api.MaxTime, api.MaxTime + 1},
+		{10, api.MaxTime, 0, api.MaxTime + 10}, {10, api.MaxTime, api.MaxTime, api.MaxTime + 10},
+		{api.MaxTime, 1, 2, api.MaxTime + 1}, {api.MaxTime, api.MaxTime, api.MaxTime, 2 * api.MaxTime},
 	} {
 		s := made(t, 3, c.period, 2)
 		ran(t, s, c.since, c.now, 2)
@@ -439,7 +440,7 @@ func TestDueOfOneBehindTheOther(t *testing.T) {
 	wantState(t, "all came back", s, state{left: 11, high: true})
 }
 
-// P11.3: no error can be told; a time below all is at no piece's time, one beyond all at each one's.
+// P11.3: no error can be told; a time below all is ahead of each piece's, one beyond all behind that of each piece here.
 func TestDueOfTimesThatMayNotBe(t *testing.T) {
 	for _, now := range belowTime() {
 		s := shuffled(t)
@@ -468,13 +469,30 @@ func TestDueWhileItIsActive(t *testing.T) {
 	wantState(t, "what is used is no piece yet", s, state{left: 4, active: true, since: 4, used: 1, high: true})
 }
 
-// P11.3: what would come back beyond the last time comes back there.
+// P11.3: at the last time comes back what is due then, and no more, however often one asks.
 func TestDueAtTheLastTime(t *testing.T) {
-	s := made(t, 3, 10, 2)
-	ran(t, s, api.MaxTime-3, api.MaxTime-1, 2)
+	s := made(t, 9, 10, 4)
+	ran(t, s, api.MaxTime-10, api.MaxTime-9, 2)
+	ran(t, s, api.MaxTime-9, api.MaxTime-8, 3)
 	wantDue(t, s, api.MaxTime-1, 0)
 	wantDue(t, s, api.MaxTime, 2)
-	wantState(t, "came back", s, state{left: 3, high: true})
+	for range 3 {
+		wantDue(t, s, api.MaxTime, 0)
+		wantState(t, "came back", s, state{left: 6, pieces: []api.Piece{{At: api.MaxTime + 1, Amount: 3}}, high: true})
+	}
+}
+
+// P11.3: no error can be told; beyond all times, too, what comes back is what is due at that number.
+func TestDueBeyondTheLastTime(t *testing.T) {
+	s := made(t, 9, 10, 4)
+	ran(t, s, api.MaxTime, api.MaxTime, 2)
+	ran(t, s, api.MaxTime-9, api.MaxTime, 3)
+	wantDue(t, s, api.MaxTime, 0)
+	wantDue(t, s, api.MaxTime+1, 3)
+	wantDue(t, s, api.MaxTime+9, 0)
+	wantState(t, "one came back", s, state{left: 7, pieces: []api.Piece{{At: api.MaxTime + 10, Amount: 2}}, high: true})
+	wantDue(t, s, api.MaxTime+10, 2)
+	wantState(t, "both came back", s, state{left: 9, high: true})
 }
 
 // P11.4: high, while fewer than most are on their way, and something is left.
