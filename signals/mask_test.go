@@ -227,21 +227,51 @@ func TestAllMayBeLeftAndGoneThroughAgain(t *testing.T) {
 	}
 }
 
-// P17.3: as it is when it begins, though one ranges over it behind a change.
-func TestAllBegunAheadOfAChange(t *testing.T) {
-	for _, change := range []call{next(1, all), next(1, of(16)), next(1, of(31)), clearOf(1), send(1, 1, 1), send(1, 16, 1), send(1, 20, 1), setMask(1, 0), setMask(1, all)} {
+// P17.3: as it is when it begins: one that was had ahead of a change goes over what is pending behind it, each time anew.
+func TestAllHadAheadOfAChange(t *testing.T) {
+	for _, x := range []struct {
+		change call
+		behind []api.Signal
+	}{
+		{next(1, all), someOfOne()[1:]},
+		{next(1, of(16)), slices.Delete(someOfOne(), 2, 3)},
+		{next(1, of(31)), someOfOne()[:5]},
+		{clearOf(1), nil},
+		{send(1, 1, 1), slices.Insert(someOfOne(), 0, api.Signal{Number: 1})},
+		{send(1, 3, 1), someOfOne()},
+		{send(1, 16, 1), slices.Insert(someOfOne(), 4, api.Signal{Number: 16, Value: 1})},
+		{send(1, 20, 1), slices.Insert(someOfOne(), 5, api.Signal{Number: 20, Value: 1})},
+		{setMask(1, 0), someOfOne()},
+		{setMask(1, all), someOfOne()},
+		{clearOf(0), someOfOne()},
+	} {
 		s := some(t)
 		over := s.All(1)
-		change.do(s)
-		wantList(t, "behind "+change.name, slices.Collect(over), someOfOne())
-		wantList(t, "again", slices.Collect(over), someOfOne())
-		wantSame(t, "All changes nothing", s, after(some(t), change), true)
+		x.change.do(s)
+		wantList(t, "behind "+x.change.name, slices.Collect(over), x.behind)
+		wantList(t, "again", slices.Collect(over), x.behind)
+		wantSame(t, "All changes nothing", s, after(some(t), x.change), true)
 	}
-	s := fresh(t, 1, 1)
+}
+
+// P17.3: each going over begins anew, though what is gone over was had once.
+func TestAllBeginsAnewEachTime(t *testing.T) {
+	s := fresh(t, 1, 2)
 	over := s.All(0)
-	want(t, s, send(0, 16, 1), "OK")
-	wantList(t, "begun ahead of all", slices.Collect(over), nil)
-	wantList(t, "begun behind it", list(s, 0), []api.Signal{{Number: 16, Value: 1}})
+	wantList(t, "nothing yet", slices.Collect(over), nil)
+	want(t, s, send(0, 16, 7), "OK")
+	wantList(t, "sent", slices.Collect(over), []api.Signal{{Number: 16, Value: 7}})
+	want(t, s, next(0, all), "{16 7} true")
+	wantList(t, "taken", slices.Collect(over), nil)
+	want(t, s, send(0, 5, 3), "OK")
+	wantList(t, "sent again", slices.Collect(over), []api.Signal{{Number: 5}})
+	for x := range over {
+		want(t, s, send(0, 3, 0), "OK")
+		want(t, s, next(0, of(5)), fmt.Sprint(x, true))
+		wantList(t, "one within the other", slices.Collect(over), []api.Signal{{Number: 3}})
+	}
+	want(t, s, clearOf(0), "1 OK")
+	wantList(t, "cleared", slices.Collect(over), nil)
 }
 
 // P17.3: what is taken and sent by the way is not seen by it, but by the next one.
